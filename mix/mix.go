@@ -8,7 +8,7 @@ const apart = 0x9e3779b97f4a7c15
 
 // step is a shift by which a number is folded onto itself, and a factor behind it. Each can be undone because the shift is not 0 and the factor is odd.
 type step struct {
-	shift  int
+	shift  uint
 	factor uint64
 }
 
@@ -61,7 +61,7 @@ func backward(yield func(step) bool) {
 }
 
 // unfold undoes x ^ x>>shift. What is folded by n and by n once more is folded by 2n, so that doubling goes on till nothing is left to shift.
-func unfold(x uint64, shift int) uint64 {
+func unfold(x uint64, shift uint) uint64 {
 	for n := shift; n < 64; n *= 2 {
 		x ^= x >> n
 	}
