@@ -56,32 +56,32 @@ func TestCheckRoot(t *testing.T) {
 	}
 }
 
-// TestCheckRound (P14.2): one more than the greatest tag is 0, but 0 and the greatest tag are far from each other.
+// TestCheckRound (P14.2): 0 is one more than no tag: a node of the tag 0 is not well tagged, not over the greatest tag either, though Make makes it so.
 func TestCheckRound(t *testing.T) {
 	most := tagged(top)
-	// The root is well tagged, and even: what is left of it is not.
-	seeCheck(t, over(most, 0, most), 1, api.ErrTag)
-	seeCheck(t, over(most, 0, tagged(top-1)), 1, api.ErrTag)
-	seeCheck(t, over(tagged(top-1), 0, most), 1, api.ErrTag)
-	seeCheck(t, made(most, most), 1, api.ErrTag)
-	// The root is well tagged, but not even.
-	seeCheck(t, over(most, 0, nil), 0, api.ErrTree)
-	seeCheck(t, over(nil, 0, most), 0, api.ErrTree)
-	seeCheck(t, over(most, 0, tagged(0)), 0, api.ErrTree)
-	seeCheck(t, over(tagged(0), 0, most), 0, api.ErrTree)
-	seeCheck(t, over(leaf(), 0, most), 0, api.ErrTree)
-	seeCheck(t, over(tagged(top-2), 0, most), 0, api.ErrTree)
-	seeCheck(t, made(most, leaf()), 0, api.ErrTree)
-	// The root is not well tagged.
-	seeCheck(t, over(most, 1, most), 0, api.ErrTag)
-	seeCheck(t, over(most, top, most), 0, api.ErrTag)
-	seeCheck(t, over(most, 1, nil), 0, api.ErrTag)
+	for _, other := range []*node.Node{nil, tagged(0), leaf(), full(5), tagged(1 << 63), tagged(top - 2), tagged(top - 1), most} {
+		for _, tag := range []uint64{0, 1, 2, top - 1, top} {
+			seeCheck(t, over(most, tag, other), 0, api.ErrTag)
+			seeCheck(t, over(other, tag, most), 0, api.ErrTag)
+		}
+		seeCheck(t, made(most, other), 0, api.ErrTag)
+		seeCheck(t, made(other, most), 0, api.ErrTag)
+		// The root is well tagged, and even; what is left of it, or right of it, is of the tag 0.
+		seeCheck(t, over(made(most, other), 1, nil), 1, api.ErrTag)
+		seeCheck(t, over(nil, 1, made(other, most)), 1, api.ErrTag)
+		seeCheck(t, over(full(1), 2, made(other, most)), 2, api.ErrTag)
+	}
 	seeCheck(t, over(tagged(top-1), 0, tagged(top-1)), 0, api.ErrTag)
 	seeCheck(t, over(nil, 0, nil), 0, api.ErrTag)
 	seeCheck(t, over(leaf(), 0, leaf()), 0, api.ErrTag)
+	// The greatest tag is one more than the one below it.
+	seeCheck(t, over(tagged(top-1), top, tagged(top-1)), 1, api.ErrTag)
+	seeCheck(t, over(tagged(top-2), top, tagged(top-1)), 1, api.ErrTag)
+	seeCheck(t, over(tagged(top-1), top, nil), 0, api.ErrTree)
+	seeCheck(t, over(nil, top, tagged(top-1)), 0, api.ErrTree)
 }
 
-// TestCheckGaps (P14.2): a well tagged root over two sides of any tags: it is even, if these differ by 1 at most, and then the left one is the first that is wrong.
+// TestCheckGaps (P14.2): a root over two sides of any tags, the tag of which is one more than the greater one's, modulo 2^64: where that is 0, it is not well tagged; else it is even, if these differ by 1 at most, and then the left one is the first that is wrong.
 func TestCheckGaps(t *testing.T) {
 	for _, c := range []struct {
 		low, high uint64
@@ -90,9 +90,10 @@ func TestCheckGaps(t *testing.T) {
 	}{
 		{9, 9, 1, api.ErrTag}, {9, 10, 1, api.ErrTag}, {9, 11, 0, api.ErrTree}, {9, 12, 0, api.ErrTree}, {9, 1 << 40, 0, api.ErrTree},
 		{0, 0, 1, api.ErrTag}, {0, 2, 0, api.ErrTree}, {0, 1<<63 - 1, 0, api.ErrTree}, {0, 1 << 63, 0, api.ErrTree}, {0, 1<<63 + 1, 0, api.ErrTree},
-		{0, top - 1, 0, api.ErrTree}, {0, top, 0, api.ErrTree}, {2, top, 0, api.ErrTree}, {1<<63 - 1, 1 << 63, 1, api.ErrTag},
-		{1<<63 - 1, 1<<63 + 1, 0, api.ErrTree}, {1<<63 - 1, top, 0, api.ErrTree}, {1 << 63, top, 0, api.ErrTree},
-		{top - 1, top, 1, api.ErrTag}, {top - 2, top - 1, 1, api.ErrTag}, {top - 3, top - 1, 0, api.ErrTree}, {top, top, 1, api.ErrTag},
+		{0, top - 1, 0, api.ErrTree}, {2, top - 1, 0, api.ErrTree}, {1<<63 - 1, 1 << 63, 1, api.ErrTag},
+		{1<<63 - 1, 1<<63 + 1, 0, api.ErrTree}, {1<<63 - 1, top - 1, 0, api.ErrTree}, {1 << 63, top - 1, 0, api.ErrTree},
+		{top - 2, top - 1, 1, api.ErrTag}, {top - 3, top - 1, 0, api.ErrTree}, {top - 1, top - 1, 1, api.ErrTag},
+		{0, top, 0, api.ErrTag}, {2, top, 0, api.ErrTag}, {1 << 63, top, 0, api.ErrTag}, {top - 2, top, 0, api.ErrTag}, {top - 1, top, 0, api.ErrTag}, {top, top, 0, api.ErrTag},
 	} {
 		low, high := tagged(c.low), tagged(c.high)
 		seeCheck(t, over(low, c.high+1, high), c.at, c.want)
@@ -286,7 +287,7 @@ func TestCheckDeep(t *testing.T) {
 		seeCheck(t, deepOver(full(3), deep, way), 0, api.ErrTree)
 	}
 	// Far below there is the first node that is wrong: each one above it is even, and another one, on its right, is wrong as well.
-	for _, tag := range []uint64{0, 2, top - deep, top - deep + 1} {
+	for _, tag := range []uint64{0, 2, 1 << 63, top - deep - 1} {
 		x := tagged(tag)
 		for range deep {
 			x = made(x, tagged(x.Tag()))

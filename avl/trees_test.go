@@ -142,14 +142,14 @@ func beadsOf(t *node.Node) []*node.Node {
 	return append(l, beadsOf(t.Right())...)
 }
 
-// faultOf is what is wrong with a node, by the chapter's words; tags go round, differences do not.
+// faultOf is what is wrong with a node, by the chapter's words: neither what is one more than a tag, nor how much two tags differ, goes round.
 func faultOf(n *node.Node) api.Errno {
 	l, r := n.Left().Tag(), n.Right().Tag()
 	if l > r {
 		l, r = r, l
 	}
 	switch {
-	case n.Tag() != r+1:
+	case n.Tag() <= r || n.Tag()-r != 1:
 		return api.ErrTag
 	case r != l && r-l != 1:
 		return api.ErrTree
